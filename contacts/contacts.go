@@ -1,0 +1,83 @@
+// Package contacts: an address book kept by replicas: see DOC.md.
+package contacts
+
+import (
+	"iter"
+
+	"contacts/api"
+	"contacts/book"
+)
+
+// Replica is one keeper of the book.
+type Replica struct {
+	id   int
+	book book.Book
+}
+
+// New makes a replica with that number and an empty book (P2).
+func New(id int) *Replica { return &Replica{id: id} }
+
+// made stands an empty replica in for a nil one, because no call may panic.
+func (r *Replica) made() *Replica {
+	if r == nil {
+		return New(0)
+	}
+	return r
+}
+
+// stamp is the stamp of what the replica writes next.
+func (r *Replica) stamp() api.Stamp {
+	return api.Stamp{Counter: r.book.Next(), Replica: r.id}
+}
+
+// Put writes a field of a contact (P3).
+func (r *Replica) Put(name, field, value string) error {
+	if err := checkPut(name, field, value); err != nil {
+		return err
+	}
+	r = r.made()
+	r.book.Take(api.Register{Name: name, Field: field, Stamp: r.stamp(), Value: value})
+	return nil
+}
+
+// Delete deletes a contact (P3).
+func (r *Replica) Delete(name string) error {
+	if err := checkName(name); err != nil {
+		return err
+	}
+	r = r.made()
+	if !r.book.Shows(name) {
+		return fault(api.ErrAbsent, name)
+	}
+	r.book.Take(api.Register{Name: name, Stamp: r.stamp()})
+	return nil
+}
+
+// Fields goes over a contact's fields and values (P4).
+func (r *Replica) Fields(name string) iter.Seq2[string, string] {
+	return func(yield func(string, string) bool) {
+		for x := range r.made().book.Seen(name) {
+			if !yield(x.Field, x.Value) {
+				return
+			}
+		}
+	}
+}
+
+// Names tells the contacts whose names begin so (P4).
+func (r *Replica) Names(prefix string) []string { return r.made().book.Names(prefix) }
+
+// Registers goes over all registers (P5).
+func (r *Replica) Registers() iter.Seq[api.Register] { return func(func(api.Register) bool) {} }
+
+// Digest stands for the registers whose keys begin so (P6).
+func (r *Replica) Digest(prefix string) api.Digest { return api.Digest{} }
+
+// Sync begins a session with another replica (P7, P8); most: how many frames are carried; it tells how many were, and their bytes.
+func (r *Replica) Sync(other *Replica, most ...int) (frames, size int) { return 0, 0 }
+
+// Save tells a replica as bytes (P9).
+func (r *Replica) Save() []byte { return nil }
+
+// Load makes the replica that Save told (P9).
+func Load(data []byte) (*Replica, error) { return nil, nil }

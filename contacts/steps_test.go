@@ -1,0 +1,118 @@
+package contacts_test
+
+import (
+	"maps"
+	"slices"
+	"strings"
+	"testing"
+
+	"contacts/api"
+	"contacts/plain"
+)
+
+// do carries out one step as the document writes it, such as "put 0 ann tel 5".
+func do(w *plain.World, step string) plain.Fault {
+	p := strings.Split(step, " ")
+	if p[0] == "put" {
+		return w.Put(int(p[1][0]-'0'), p[2], p[3], p[4])
+	}
+	return w.Delete(int(p[1][0]-'0'), p[2])
+}
+
+func three(t *testing.T) *plain.World {
+	t.Helper()
+	w := &plain.World{}
+	for id := 1; id <= 3; id++ {
+		if !w.New(id) {
+			t.Fatal("P2: New made none")
+		}
+	}
+	return w
+}
+
+func TestExamples(t *testing.T) {
+	for _, c := range []struct {
+		steps      string
+		ann, names []string
+	}{
+		{"put 0 ann tel 5", []string{"tel", "5"}, []string{"ann"}},
+		{"put 0 ann tel 5; put 0 ann tel 6", []string{"tel", "6"}, []string{"ann"}},
+		{"put 0 ann tel 5; put 0 ann mail a@b; put 0 an tel 1", []string{"mail", "a@b", "tel", "5"}, []string{"an", "ann"}},
+		{"put 0 ann tel 5; delete 0 ann", nil, nil},
+		{"put 0 ann tel 5; delete 0 ann; put 0 ann mail m", []string{"mail", "m"}, []string{"ann"}},
+	} {
+		w := three(t)
+		for _, step := range strings.Split(c.steps, "; ") {
+			if f := do(w, step); f != (plain.Fault{}) {
+				t.Errorf("Examples: %s: %v", step, f)
+			}
+		}
+		ann, ok := w.Fields(0, "ann")
+		if !ok || !slices.Equal(ann, c.ann) || !slices.Equal(w.Names(0, ""), c.names) {
+			t.Errorf("Examples: %s: %q, %q, want %q, %q", c.steps, ann, w.Names(0, ""), c.ann, c.names)
+		}
+		if len(w.Names(1, "")) != 0 {
+			t.Errorf("Examples: %s: replica 1 was told without a session", c.steps)
+		}
+	}
+}
+
+// model is what one replica alone shows: with no other one, what comes last stands.
+type model map[string]map[string]string
+
+func (m model) do(step string) plain.Fault {
+	p := strings.Split(step, " ")
+	if p[0] == "put" {
+		if m[p[2]] == nil {
+			m[p[2]] = map[string]string{}
+		}
+		m[p[2]][p[3]] = p[4]
+		return plain.Fault{}
+	}
+	if m[p[2]] == nil {
+		return plain.Fault{Kind: int(api.ErrAbsent), What: p[2]}
+	}
+	delete(m, p[2])
+	return plain.Fault{}
+}
+
+func (m model) fields(name string) []string {
+	var l []string
+	for _, f := range slices.Sorted(maps.Keys(m[name])) {
+		l = append(l, f, m[name][f])
+	}
+	return l
+}
+
+func (m model) same(t *testing.T, w *plain.World, steps []string) {
+	t.Helper()
+	for _, name := range []string{"a", "ab"} {
+		if l, ok := w.Fields(0, name); !ok || !slices.Equal(l, m.fields(name)) {
+			t.Errorf("P3, P4: %q: Fields(%q): %q, %v, want %q", steps, name, l, ok, m.fields(name))
+		}
+	}
+	if l := w.Names(0, ""); !slices.Equal(l, slices.Sorted(maps.Keys(m))) {
+		t.Errorf("P3, P4: %q: Names: %q", steps, l)
+	}
+}
+
+func TestAllShortRunsOfSteps(t *testing.T) {
+	steps := []string{"put 0 a t 2", "put 0 a t 1", "put 0 a u ", "put 0 ab t 3", "delete 0 a", "delete 0 ab"}
+	const length = 5
+	runs := 1
+	for range length {
+		runs *= len(steps)
+	}
+	for run := range runs {
+		w, m, done := &plain.World{}, model{}, []string{}
+		w.New(1)
+		for k := run; len(done) < length; k /= len(steps) {
+			step := steps[k%len(steps)]
+			done = append(done, step)
+			if got, want := do(w, step), m.do(step); got != want {
+				t.Fatalf("P3: %q: %v, want %v", done, got, want)
+			}
+			m.same(t, w, done)
+		}
+	}
+}
