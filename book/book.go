@@ -2,6 +2,7 @@
 package book
 
 import (
+	"cmp"
 	"iter"
 	"slices"
 	"strings"
@@ -61,11 +62,11 @@ func (b *Book) Next() int {
 	return greatest + 1
 }
 
-// seen goes over the registers that are seen, in no order.
-func (c contact) seen() iter.Seq[api.Register] {
+// seen goes over a contact's registers that are seen, in no order.
+func (b *Book) seen(name string) iter.Seq[api.Register] {
 	return func(yield func(api.Register) bool) {
-		deletion, deleted := c[""]
-		for _, x := range c {
+		deletion, deleted := b.contacts[name][""]
+		for _, x := range b.contacts[name] {
 			// The deletion itself is left out too: no stamp is later than itself.
 			if deleted && !Later(x.Stamp, deletion.Stamp) {
 				continue
@@ -79,25 +80,48 @@ func (c contact) seen() iter.Seq[api.Register] {
 
 // Shows: is anything of the contact seen?
 func (b *Book) Shows(name string) bool {
-	for range b.contacts[name].seen() {
+	for range b.seen(name) {
 		return true
 	}
 	return false
 }
 
-func byField(a, b api.Register) int { return strings.Compare(a.Field, b.Field) }
+// key closes a register's key with a nought byte, so that a prefix can stand for one key alone, and not for the longer ones.
+func key(x api.Register) string { return x.Name + "." + x.Field + "\x00" }
 
-// Seen goes over a contact's registers that are seen, by field.
-func (b *Book) Seen(name string) iter.Seq[api.Register] {
+// beginning goes over the registers whose keys begin so, in no order.
+func (b *Book) beginning(prefix string) iter.Seq[api.Register] {
 	return func(yield func(api.Register) bool) {
-		// All are gathered ahead of the first one told: who is told may edit the book.
-		for _, x := range slices.SortedFunc(b.contacts[name].seen(), byField) {
+		for _, c := range b.contacts {
+			for _, x := range c {
+				if strings.HasPrefix(key(x), prefix) && !yield(x) {
+					return
+				}
+			}
+		}
+	}
+}
+
+func inOrder(a, b api.Register) int {
+	return cmp.Or(strings.Compare(a.Name, b.Name), strings.Compare(a.Field, b.Field))
+}
+
+// sorted gathers all ahead of the first one told: who is told may edit the book.
+func sorted(registers iter.Seq[api.Register]) iter.Seq[api.Register] {
+	return func(yield func(api.Register) bool) {
+		for _, x := range slices.SortedFunc(registers, inOrder) {
 			if !yield(x) {
 				return
 			}
 		}
 	}
 }
+
+// Seen goes over a contact's registers that are seen, by field.
+func (b *Book) Seen(name string) iter.Seq[api.Register] { return sorted(b.seen(name)) }
+
+// Registers goes over the registers whose keys, a nought byte behind each, begin so: by name, then by field.
+func (b *Book) Registers(prefix string) iter.Seq[api.Register] { return sorted(b.beginning(prefix)) }
 
 // Names is the names of the contacts that show and begin so, in order.
 func (b *Book) Names(prefix string) []string {

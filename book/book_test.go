@@ -157,3 +157,53 @@ func TestNamesInOrderByPrefix(t *testing.T) {
 		}
 	}
 }
+
+// mixed is a book whose keys stand in each other's way, and its registers in order.
+func mixed() (*Book, []api.Register) {
+	l := []api.Register{
+		register("an", "n", 4, 1, ""),
+		register("an", "nt", 5, 1, "5"),
+		register("ann", "", 6, -1, ""),
+		register("ann", "a", 1, 1, "x"),
+		register("ann", "tel", 9, 1, "y"),
+		register("ann", "tell", 2, 3, "z"),
+		register("anna", "", 7, 1, ""),
+		register("b", "z", 8, 1, "\n"),
+		register("ba", "a", 3, 1, "\x00"),
+	}
+	return bookOf(l[5], l[0], l[8], l[2], l[7], l[4], l[1], l[6], l[3]), l
+}
+
+func TestRegistersInOrder(t *testing.T) {
+	b, want := mixed()
+	for range 20 {
+		if l := slices.Collect(b.Registers("")); !slices.Equal(l, want) {
+			t.Fatalf("P5: %v, want %v", l, want)
+		}
+	}
+}
+
+func TestRegistersByPrefix(t *testing.T) {
+	b, l := mixed()
+	for _, c := range []struct {
+		prefix   string
+		from, to int
+	}{
+		{"a", 0, 7}, {"an", 0, 7}, {"ann", 2, 7}, {"anna", 6, 7}, {"annas", 0, 0}, {"n", 0, 0},
+		{"an.", 0, 2}, {"an.n", 0, 2}, {"an.n\x00", 0, 1}, {"an.nt", 1, 2}, {"an.nt\x00", 1, 2}, {"an.nt\x00\x00", 0, 0}, {"an.nt\x00t", 0, 0},
+		{"ann.", 2, 6}, {"ann.\x00", 2, 3}, {"ann.tel", 4, 6}, {"ann.tel\x00", 4, 5}, {"ann.tell", 5, 6}, {"ann.tells", 0, 0},
+		{"ann\x00", 0, 0}, {"\x00", 0, 0}, {".", 0, 0}, {"..", 0, 0}, {"ann..", 0, 0}, {"b", 7, 9}, {"b.", 7, 8}, {"ba", 8, 9}, {"B", 0, 0}, {" ", 0, 0}, {"\xff", 0, 0}, {"anna.\x00", 6, 7}, {"anna.", 6, 7},
+	} {
+		if got := slices.Collect(b.Registers(c.prefix)); !slices.Equal(got, l[c.from:c.to]) {
+			t.Errorf("P6: Registers(%q): %v, want %v", c.prefix, got, l[c.from:c.to])
+		}
+	}
+}
+
+func TestRegistersOfAnEmptyBook(t *testing.T) {
+	for _, prefix := range []string{"", "a", "\x00"} {
+		for x := range new(Book).Registers(prefix) {
+			t.Errorf("P5: %v in an empty book", x)
+		}
+	}
+}

@@ -6,6 +6,7 @@ import (
 
 	"contacts/api"
 	"contacts/book"
+	"contacts/digest"
 )
 
 // Replica is one keeper of the book.
@@ -68,10 +69,12 @@ func (r *Replica) Fields(name string) iter.Seq2[string, string] {
 func (r *Replica) Names(prefix string) []string { return r.made().book.Names(prefix) }
 
 // Registers goes over all registers (P5).
-func (r *Replica) Registers() iter.Seq[api.Register] { return func(func(api.Register) bool) {} }
+func (r *Replica) Registers() iter.Seq[api.Register] { return r.made().book.Registers("") }
 
 // Digest stands for the registers whose keys begin so (P6).
-func (r *Replica) Digest(prefix string) api.Digest { return api.Digest{} }
+func (r *Replica) Digest(prefix string) api.Digest {
+	return digest.Of(r.made().book.Registers(prefix))
+}
 
 // Sync begins a session with another replica (P7, P8); most: how many frames are carried; it tells how many were, and their bytes.
 func (r *Replica) Sync(other *Replica, most ...int) (frames, size int) { return 0, 0 }

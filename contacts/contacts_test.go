@@ -67,7 +67,7 @@ func TestNewIsEmpty(t *testing.T) {
 		if r == nil {
 			t.Fatalf("P2: New(%d) is nil", id)
 		}
-		if len(r.Names("")) != 0 || len(fields(r, "ann")) != 0 {
+		if len(r.Names("")) != 0 || len(fields(r, "ann")) != 0 || len(slices.Collect(r.Registers())) != 0 {
 			t.Errorf("P2: New(%d) is not empty", id)
 		}
 	}
@@ -285,6 +285,119 @@ func TestReplicasThatNewDidNotMake(t *testing.T) {
 		if len(fields(r, "ann")) != 0 || len(r.Names("")) != 0 {
 			t.Error("P1: something in an empty book")
 		}
+		if len(slices.Collect(r.Registers())) != 0 || r.Digest("") != New(1).Digest("") {
+			t.Error("P1: registers in an empty book")
+		}
 		must(t, r.Put("ann", "tel", "5"))
+	}
+}
+
+// busy is a replica with deletions and what they hide, and its registers in order.
+func busy() (*Replica, []api.Register) {
+	l := []api.Register{
+		register("an", "z", 2, 4, "6"),
+		register("ann", "", 4, 4, ""),
+		register("ann", "a", 6, -4, "8"),
+		register("ann", "tel", 3, 4, "7"),
+		register("anna", "mail", 5, 4, ""),
+		register("bob", "", 9, math.MinInt, ""),
+		register("bob", "tel", 1, math.MaxInt, "\n \x00\xff"),
+	}
+	return holding(4, l[3], l[6], l[0], l[2], l[5], l[4], l[1]), l
+}
+
+func TestRegistersTellsAllInOrder(t *testing.T) {
+	r, want := busy()
+	all := r.Registers()
+	for range 20 {
+		if l := slices.Collect(all); !slices.Equal(l, want) {
+			t.Fatalf("P5: %v, want %v", l, want)
+		}
+	}
+}
+
+func TestRegistersOfEdits(t *testing.T) {
+	r := New(-3)
+	must(t, r.Put("bob", "tel", "1"))
+	must(t, r.Put("ann", "tel", "2"))
+	must(t, r.Put("bob", "tel", "3"))
+	must(t, r.Delete("ann"))
+	refused(t, r.Delete("ann"), api.ErrAbsent, "ann")
+	must(t, r.Put("ann", "a", "4"))
+	must(t, r.Delete("ann"))
+	want := []api.Register{register("ann", "", 6, -3, ""), register("ann", "a", 5, -3, "4"), register("ann", "tel", 2, -3, "2"), register("bob", "tel", 3, -3, "3")}
+	if l := slices.Collect(r.Registers()); !slices.Equal(l, want) {
+		t.Errorf("P5: %v, want %v", l, want)
+	}
+}
+
+func TestRegistersStopsAndStartsAgain(t *testing.T) {
+	r, want := busy()
+	all := r.Registers()
+	for most := 1; most <= len(want); most++ {
+		var got []api.Register
+		all(func(x api.Register) bool {
+			got = append(got, x)
+			return len(got) < most
+		})
+		if !slices.Equal(got, want[:most]) {
+			t.Errorf("P1: told to stop after %d: %v", most, got)
+		}
+	}
+}
+
+func TestRegistersWhileTheBookIsEdited(t *testing.T) {
+	r, want := busy()
+	var got []api.Register
+	for x := range r.Registers() {
+		got = append(got, x)
+		must(t, r.Put("ann", "new", "v"))
+		must(t, r.Put(x.Name+"z", "new", "v"))
+		must(t, r.Delete("ann"))
+	}
+	if !slices.Equal(got, want) {
+		t.Errorf("P1: %v, want %v", got, want)
+	}
+}
+
+func TestDigestOfWhatTheEditsWrote(t *testing.T) {
+	r := New(1)
+	empty := r.Digest("")
+	must(t, r.Put("ann", "tel", "5"))
+	before := r.Digest("")
+	kept := before
+	before[0] ^= 1
+	if r.Digest("") != kept || kept == empty {
+		t.Errorf("P1, P6: %x, want %x", r.Digest(""), kept)
+	}
+	refused(t, r.Put("ann", "tel", strings.Repeat("5", 21)), api.ErrValue, strings.Repeat("5", 21))
+	refused(t, r.Delete("bob"), api.ErrAbsent, "bob")
+	if r.Digest("") != kept {
+		t.Error("P1: what was refused changed the digest")
+	}
+	must(t, r.Put("ann", "tel", "5"))
+	if r.Digest("") == kept {
+		t.Error("P6: the stamp does not show in the digest")
+	}
+}
+
+// The order in which registers were taken in does not show.
+func TestDigestOfLikeBooks(t *testing.T) {
+	a, l := busy()
+	slices.Reverse(l)
+	b := holding(-9, l...)
+	for _, prefix := range []string{"", "a", "an.", "ann", "ann.\x00", "bob.tel\x00", "x"} {
+		if a.Digest(prefix) != b.Digest(prefix) {
+			t.Errorf("P6: Digest(%q): %x, %x", prefix, a.Digest(prefix), b.Digest(prefix))
+		}
+	}
+}
+
+func TestDigestOfOddPrefixes(t *testing.T) {
+	r, _ := busy()
+	for _, p := range append(oddTexts()[1:], "ann\x00", "ann.tel\x00\x00", "ann.tel\x00 3", "ann.tel ", "ann.tell", "an.\x00", ".tel", "n") {
+		if d := r.Digest(p); d != New(0).Digest("") {
+			t.Errorf("P6: Digest(%.40q) of no register: %x", p, d)
+		}
 	}
 }

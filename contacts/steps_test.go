@@ -1,6 +1,9 @@
 package contacts_test
 
 import (
+	"encoding/hex"
+	"fmt"
+	"hash/fnv"
 	"maps"
 	"slices"
 	"strings"
@@ -57,6 +60,68 @@ func TestExamples(t *testing.T) {
 	}
 }
 
+func TestDigestExamples(t *testing.T) {
+	for _, c := range []struct{ steps, prefix, want string }{
+		{"", "", "cbf29ce484222325"},
+		{"put 0 ann tel 5", "", "c66462c9e304fed7"},
+		{"put 0 ann tel 5", "an", "c66462c9e304fed7"},
+		{"put 0 ann tel 5", "b", "cbf29ce484222325"},
+		{"put 0 ann tel 5; put 0 bob town Oslo", "", "9709c188c4b3613a"},
+		{"put 0 ann tel 5; put 0 bob town Oslo", "b", "7f6635496167b970"},
+		{"put 0 ann tel 5; delete 0 ann", "", "27c1e971ea5af45f"},
+		{"put 0 ann tel 5; delete 0 ann", "ann.tel\x00", "c66462c9e304fed7"},
+	} {
+		w := three(t)
+		for _, step := range strings.Split(c.steps, "; ") {
+			if step != "" {
+				do(w, step)
+			}
+		}
+		if d := hex.EncodeToString([]byte(w.Digest(0, c.prefix))); d != c.want {
+			t.Errorf("P6, Examples: %q: Digest(%q) = %s, want %s", c.steps, c.prefix, d, c.want)
+		}
+	}
+}
+
+// written is what one replica, of number 1, has written: each edit that was not refused counts.
+type written struct {
+	counter int
+	last    map[string]api.Register
+}
+
+func (k *written) do(step string) {
+	p := append(strings.Split(step, " "), "", "")
+	k.counter++
+	k.last[p[2]+"."+p[3]] = api.Register{Name: p[2], Field: p[3], Stamp: api.Stamp{Counter: k.counter, Replica: 1}, Value: p[4]}
+}
+
+// text is the text behind a digest, and registers what it tells.
+func (k *written) text(prefix string) (text string, registers []api.Register) {
+	for _, key := range slices.Sorted(maps.Keys(k.last)) {
+		if x := k.last[key]; strings.HasPrefix(key+"\x00", prefix) {
+			registers = append(registers, x)
+			text += fmt.Sprintf("%s %d %d %d %s\n", key, x.Stamp.Counter, x.Stamp.Replica, len(x.Value), x.Value)
+		}
+	}
+	return text, registers
+}
+
+func (k *written) same(t *testing.T, w *plain.World, steps []string) {
+	t.Helper()
+	for _, prefix := range []string{"", "a", "a.", "a.\x00", "a.t", "a.t\x00", "a.u", "ab", "ab.", "ab.\x00", "ab.t\x00", "b", "a\x00"} {
+		text, _ := k.text(prefix)
+		h := fnv.New64a()
+		h.Write([]byte(text))
+		if d := w.Digest(0, prefix); d != string(h.Sum(nil)) {
+			t.Fatalf("P6: %q: Digest(%q) = %x, want that of %q", steps, prefix, d, text)
+		}
+	}
+	_, want := k.text("")
+	if l, ok := w.Registers(0); !ok || !slices.Equal(l, want) {
+		t.Fatalf("P5: %q: %v, %v, want %v", steps, l, ok, want)
+	}
+}
+
 // model is what one replica alone shows: with no other one, what comes last stands.
 type model map[string]map[string]string
 
@@ -88,11 +153,11 @@ func (m model) same(t *testing.T, w *plain.World, steps []string) {
 	t.Helper()
 	for _, name := range []string{"a", "ab"} {
 		if l, ok := w.Fields(0, name); !ok || !slices.Equal(l, m.fields(name)) {
-			t.Errorf("P3, P4: %q: Fields(%q): %q, %v, want %q", steps, name, l, ok, m.fields(name))
+			t.Fatalf("P3, P4: %q: Fields(%q): %q, %v, want %q", steps, name, l, ok, m.fields(name))
 		}
 	}
 	if l := w.Names(0, ""); !slices.Equal(l, slices.Sorted(maps.Keys(m))) {
-		t.Errorf("P3, P4: %q: Names: %q", steps, l)
+		t.Fatalf("P3, P4: %q: Names: %q", steps, l)
 	}
 }
 
@@ -105,14 +170,20 @@ func TestAllShortRunsOfSteps(t *testing.T) {
 	}
 	for run := range runs {
 		w, m, done := &plain.World{}, model{}, []string{}
+		k := &written{last: map[string]api.Register{}}
 		w.New(1)
-		for k := run; len(done) < length; k /= len(steps) {
-			step := steps[k%len(steps)]
+		for rest := run; len(done) < length; rest /= len(steps) {
+			step := steps[rest%len(steps)]
 			done = append(done, step)
-			if got, want := do(w, step), m.do(step); got != want {
+			got, want := do(w, step), m.do(step)
+			if got != want {
 				t.Fatalf("P3: %q: %v, want %v", done, got, want)
 			}
+			if got == (plain.Fault{}) {
+				k.do(step)
+			}
 			m.same(t, w, done)
+			k.same(t, w, done)
 		}
 	}
 }
