@@ -4,6 +4,7 @@ package book
 import (
 	"cmp"
 	"iter"
+	"math"
 	"slices"
 	"strings"
 
@@ -53,7 +54,11 @@ func (b *Book) Take(x api.Register) {
 
 // Next is the counter of the stamp that is written next.
 func (b *Book) Next() int {
-	greatest := 0
+	if len(b.contacts) == 0 {
+		return 1
+	}
+	// Bytes from outside may tell a book whose counters are all below 0.
+	greatest := math.MinInt
 	for _, c := range b.contacts {
 		for _, x := range c {
 			greatest = max(greatest, x.Stamp.Counter)

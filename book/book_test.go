@@ -98,6 +98,7 @@ func TestNext(t *testing.T) {
 		{bookOf(register("a", "t", 3, 5, ""), register("a", "", 9, 5, "")), 10},
 		{bookOf(register("a", "t", 9, 5, ""), register("a", "", 3, 5, "")), 10},
 		{bookOf(register("a", "t", 4, 5, ""), register("a", "t", 2, 5, "")), 5},
+		{bookOf(register("a", "t", -4, 5, ""), register("b", "t", -7, 5, "")), -3},
 	} {
 		if n := c.b.Next(); n != c.want {
 			t.Errorf("P3: Next of %v = %d, want %d", c.b, n, c.want)

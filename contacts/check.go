@@ -39,3 +39,11 @@ func checkPut(name, field, value string) error {
 	}
 	return nil
 }
+
+// writable: is it a register that Put or Delete may write? Its stamp may be any: numbers are, and counters grow.
+func writable(x api.Register) bool {
+	if x.Field == "" {
+		return x.Value == "" && checkName(x.Name) == nil
+	}
+	return checkPut(x.Name, x.Field, x.Value) == nil
+}

@@ -78,9 +78,3 @@ func (r *Replica) Digest(prefix string) api.Digest {
 
 // Sync begins a session with another replica (P7, P8); most: how many frames are carried; it tells how many were, and their bytes.
 func (r *Replica) Sync(other *Replica, most ...int) (frames, size int) { return 0, 0 }
-
-// Save tells a replica as bytes (P9).
-func (r *Replica) Save() []byte { return nil }
-
-// Load makes the replica that Save told (P9).
-func Load(data []byte) (*Replica, error) { return nil, nil }

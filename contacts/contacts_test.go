@@ -288,6 +288,9 @@ func TestReplicasThatNewDidNotMake(t *testing.T) {
 		if len(slices.Collect(r.Registers())) != 0 || r.Digest("") != New(1).Digest("") {
 			t.Error("P1: registers in an empty book")
 		}
+		if x, err := Load(r.Save()); err != nil || !reflect.DeepEqual(x, New(0)) {
+			t.Errorf("P1: saved and loaded: %v, %v", x, err)
+		}
 		must(t, r.Put("ann", "tel", "5"))
 	}
 }

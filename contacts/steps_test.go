@@ -161,6 +161,19 @@ func (m model) same(t *testing.T, w *plain.World, steps []string) {
 	}
 }
 
+// saved checks that replica 0, saved and loaded, holds the same book.
+func saved(t *testing.T, w *plain.World, steps []string) {
+	t.Helper()
+	size := w.Size()
+	if f := w.Load(w.Save(0)); f != (plain.Fault{}) || w.Size() != size+1 {
+		t.Fatalf("P9: %q: Load of what Save told: %v", steps, f)
+	}
+	want, _ := w.Registers(0)
+	if l, ok := w.Registers(size); !ok || !slices.Equal(l, want) {
+		t.Fatalf("P9: %q: loaded %v, %v, want %v", steps, l, ok, want)
+	}
+}
+
 func TestAllShortRunsOfSteps(t *testing.T) {
 	steps := []string{"put 0 a t 2", "put 0 a t 1", "put 0 a u ", "put 0 ab t 3", "delete 0 a", "delete 0 ab"}
 	const length = 5
@@ -185,5 +198,6 @@ func TestAllShortRunsOfSteps(t *testing.T) {
 			m.same(t, w, done)
 			k.same(t, w, done)
 		}
+		saved(t, w, done)
 	}
 }
