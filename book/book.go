@@ -91,15 +91,15 @@ func (b *Book) Shows(name string) bool {
 	return false
 }
 
-// key closes a register's key with a nought byte, so that a prefix can stand for one key alone, and not for the longer ones.
-func key(x api.Register) string { return x.Name + "." + x.Field + "\x00" }
+// Key closes a register's key with a nought byte, so that a prefix can stand for one key alone, and not for the longer ones.
+func Key(x api.Register) string { return x.Name + "." + x.Field + "\x00" }
 
 // beginning goes over the registers whose keys begin so, in no order.
 func (b *Book) beginning(prefix string) iter.Seq[api.Register] {
 	return func(yield func(api.Register) bool) {
 		for _, c := range b.contacts {
 			for _, x := range c {
-				if strings.HasPrefix(key(x), prefix) && !yield(x) {
+				if strings.HasPrefix(Key(x), prefix) && !yield(x) {
 					return
 				}
 			}

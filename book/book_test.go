@@ -208,3 +208,14 @@ func TestRegistersOfAnEmptyBook(t *testing.T) {
 		}
 	}
 }
+
+// Keys stand in the order of their registers, and none begins with another.
+func TestKey(t *testing.T) {
+	keys := []string{}
+	for x := range bookOf(register("an", "t", 1, 1, ""), register("ann", "", 1, 1, ""), register("ann", "t", 1, 1, ""), register("ann", "te", 1, 1, ""), register("a", "zzzz", 1, 1, "")).Registers("") {
+		keys = append(keys, Key(x))
+	}
+	if want := []string{"a.zzzz\x00", "an.t\x00", "ann.\x00", "ann.t\x00", "ann.te\x00"}; !slices.Equal(keys, want) || !slices.IsSorted(keys) {
+		t.Errorf("P6: %q, want %q", keys, want)
+	}
+}

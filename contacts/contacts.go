@@ -13,6 +13,8 @@ import (
 type Replica struct {
 	id   int
 	book book.Book
+	// begun is how many sessions it began with replicas of a number since the last scrub, by that number.
+	begun map[int]int
 }
 
 // New makes a replica with that number and an empty book (P2).
@@ -75,6 +77,3 @@ func (r *Replica) Registers() iter.Seq[api.Register] { return r.made().book.Regi
 func (r *Replica) Digest(prefix string) api.Digest {
 	return digest.Of(r.made().book.Registers(prefix))
 }
-
-// Sync begins a session with another replica (P7, P8); most: how many frames are carried; it tells how many were, and their bytes.
-func (r *Replica) Sync(other *Replica, most ...int) (frames, size int) { return 0, 0 }

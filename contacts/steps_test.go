@@ -13,13 +13,24 @@ import (
 	"contacts/plain"
 )
 
-// do carries out one step as the document writes it, such as "put 0 ann tel 5".
+func digit(text string) int { return int(text[0] - '0') }
+
+// do carries out one step as the document writes it, such as "put 0 ann tel 5"; "once 0 1" is one whole session.
 func do(w *plain.World, step string) plain.Fault {
 	p := strings.Split(step, " ")
-	if p[0] == "put" {
-		return w.Put(int(p[1][0]-'0'), p[2], p[3], p[4])
+	switch p[0] {
+	case "put":
+		return w.Put(digit(p[1]), p[2], p[3], p[4])
+	case "delete":
+		return w.Delete(digit(p[1]), p[2])
+	case "sync":
+		for range 8 {
+			w.Sync(digit(p[1]), digit(p[2]), nil)
+		}
+	case "once":
+		w.Sync(digit(p[1]), digit(p[2]), []int{-1, 0})
 	}
-	return w.Delete(int(p[1][0]-'0'), p[2])
+	return plain.Fault{}
 }
 
 func three(t *testing.T) *plain.World {
@@ -35,27 +46,38 @@ func three(t *testing.T) *plain.World {
 
 func TestExamples(t *testing.T) {
 	for _, c := range []struct {
-		steps      string
-		ann, names []string
+		steps         string
+		who           int
+		name          string
+		fields, names []string
 	}{
-		{"put 0 ann tel 5", []string{"tel", "5"}, []string{"ann"}},
-		{"put 0 ann tel 5; put 0 ann tel 6", []string{"tel", "6"}, []string{"ann"}},
-		{"put 0 ann tel 5; put 0 ann mail a@b; put 0 an tel 1", []string{"mail", "a@b", "tel", "5"}, []string{"an", "ann"}},
-		{"put 0 ann tel 5; delete 0 ann", nil, nil},
-		{"put 0 ann tel 5; delete 0 ann; put 0 ann mail m", []string{"mail", "m"}, []string{"ann"}},
+		{"put 0 ann tel 5", 0, "ann", []string{"tel", "5"}, []string{"ann"}},
+		{"put 0 ann tel 5; put 0 ann tel 6", 0, "ann", []string{"tel", "6"}, []string{"ann"}},
+		{"put 0 ann tel 5; put 0 ann mail a@b; put 0 an tel 1", 0, "ann", []string{"mail", "a@b", "tel", "5"}, []string{"an", "ann"}},
+		{"put 0 ann tel 5; delete 0 ann", 0, "ann", nil, nil},
+		{"put 0 ann tel 5; delete 0 ann; put 0 ann mail m", 0, "ann", []string{"mail", "m"}, []string{"ann"}},
+		{"put 0 ann tel 5; put 1 ann tel 6; sync 0 1", 0, "ann", []string{"tel", "6"}, []string{"ann"}},
+		{"put 0 ann tel 5; put 0 bob tel 1; put 0 ann tel 7; put 1 ann tel 6; sync 1 0", 1, "ann", []string{"tel", "7"}, []string{"ann", "bob"}},
+		{"put 0 ann tel 5; sync 0 1; delete 1 ann; put 0 ann tel 9; sync 0 1", 0, "ann", nil, nil},
+		{"put 0 ann tel 5; sync 0 1; delete 0 ann; put 1 ann tel 9; sync 0 1", 0, "ann", []string{"tel", "9"}, []string{"ann"}},
+		{"put 0 ann tel 5; sync 0 1; delete 1 ann; put 0 ann mail m; put 0 ann tel 8; sync 0 1", 1, "ann", []string{"tel", "8"}, []string{"ann"}},
+		{"put 0 ann tel 5; put 1 bob tel 6; sync 0 1; sync 1 2", 2, "bob", []string{"tel", "6"}, []string{"ann", "bob"}},
+		{"put 0 ann tel 1; put 1 ann tel 2; put 2 ann tel 3; sync 2 1; sync 0 1; sync 2 0", 2, "ann", []string{"tel", "3"}, []string{"ann"}},
 	} {
-		w := three(t)
-		for _, step := range strings.Split(c.steps, "; ") {
-			if f := do(w, step); f != (plain.Fault{}) {
-				t.Errorf("Examples: %s: %v", step, f)
+		for _, steps := range []string{c.steps, strings.ReplaceAll(c.steps, "sync", "once")} {
+			w := three(t)
+			for _, step := range strings.Split(steps, "; ") {
+				if f := do(w, step); f != (plain.Fault{}) {
+					t.Errorf("Examples: %s: %v", step, f)
+				}
 			}
-		}
-		ann, ok := w.Fields(0, "ann")
-		if !ok || !slices.Equal(ann, c.ann) || !slices.Equal(w.Names(0, ""), c.names) {
-			t.Errorf("Examples: %s: %q, %q, want %q, %q", c.steps, ann, w.Names(0, ""), c.ann, c.names)
-		}
-		if len(w.Names(1, "")) != 0 {
-			t.Errorf("Examples: %s: replica 1 was told without a session", c.steps)
+			fields, ok := w.Fields(c.who, c.name)
+			if !ok || !slices.Equal(fields, c.fields) || !slices.Equal(w.Names(c.who, ""), c.names) {
+				t.Errorf("Examples: %s: %q, %q, want %q, %q", steps, fields, w.Names(c.who, ""), c.fields, c.names)
+			}
+			if !strings.Contains(steps, " 1 ") && len(w.Names(1, "")) != 0 {
+				t.Errorf("Examples: %s: replica 1 was told without a session", steps)
+			}
 		}
 	}
 }
@@ -199,5 +221,109 @@ func TestAllShortRunsOfSteps(t *testing.T) {
 			k.same(t, w, done)
 		}
 		saved(t, w, done)
+	}
+}
+
+// books is what several replicas hold, of the numbers 1, 2 and so on: their registers by key.
+type books []map[string]api.Register
+
+func newBooks(n int) books {
+	var b books
+	for range n {
+		b = append(b, map[string]api.Register{})
+	}
+	return b
+}
+
+func (b books) write(i int, name, field, value string) {
+	counter := 0
+	for _, x := range b[i] {
+		counter = max(counter, x.Stamp.Counter)
+	}
+	b[i][name+"."+field] = api.Register{Name: name, Field: field, Stamp: api.Stamp{Counter: counter + 1, Replica: i + 1}, Value: value}
+}
+
+func later(a, b api.Stamp) bool {
+	return a.Counter > b.Counter || a.Counter == b.Counter && a.Replica > b.Replica
+}
+
+// session makes both hold what the two hold together; no two replicas have one number here, so stamps tell which wins.
+func (b books) session(i, j int) {
+	for key, x := range b[i] {
+		if y, there := b[j][key]; there && later(y.Stamp, x.Stamp) {
+			b[i][key] = y
+		}
+	}
+	for key, y := range b[j] {
+		if _, there := b[i][key]; !there {
+			b[i][key] = y
+		}
+	}
+	b[j] = maps.Clone(b[i])
+}
+
+// fields is what is seen of a contact.
+func (b books) fields(i int, name string) []string {
+	var l []string
+	deletion, deleted := b[i][name+"."]
+	for _, key := range slices.Sorted(maps.Keys(b[i])) {
+		x := b[i][key]
+		if x.Name == name && x.Field != "" && (!deleted || later(x.Stamp, deletion.Stamp)) {
+			l = append(l, x.Field, x.Value)
+		}
+	}
+	return l
+}
+
+func (b books) do(step string) plain.Fault {
+	p := strings.Split(step, " ")
+	i := digit(p[1])
+	switch p[0] {
+	case "put":
+		b.write(i, p[2], p[3], p[4])
+	case "delete":
+		if b.fields(i, p[2]) == nil {
+			return plain.Fault{Kind: int(api.ErrAbsent), What: p[2]}
+		}
+		b.write(i, p[2], "", "")
+	case "sync", "once":
+		b.session(i, digit(p[2]))
+	}
+	return plain.Fault{}
+}
+
+func (b books) same(t *testing.T, w *plain.World, steps []string) {
+	t.Helper()
+	for i := range b {
+		var want []api.Register
+		for _, key := range slices.Sorted(maps.Keys(b[i])) {
+			want = append(want, b[i][key])
+		}
+		if l, ok := w.Registers(i); !ok || !slices.Equal(l, want) {
+			t.Fatalf("P7, P8: %q: replica %d holds %v, %v, want %v", steps, i, l, ok, want)
+		}
+		if l, ok := w.Fields(i, "a"); !ok || !slices.Equal(l, b.fields(i, "a")) {
+			t.Fatalf("P4, P8: %q: replica %d shows %q, %v, want %q", steps, i, l, ok, b.fields(i, "a"))
+		}
+	}
+}
+
+func TestAllShortRunsOfStepsWithSessions(t *testing.T) {
+	steps := []string{"put 0 a t 2", "put 1 a t 1", "put 2 a u 3", "delete 0 a", "delete 1 a", "once 0 1", "once 2 1", "sync 2 0"}
+	const length = 5
+	runs := 1
+	for range length {
+		runs *= len(steps)
+	}
+	for run := range runs {
+		w, b, done := three(t), newBooks(3), []string{}
+		for rest := run; len(done) < length; rest /= len(steps) {
+			step := steps[rest%len(steps)]
+			done = append(done, step)
+			if got, want := do(w, step), b.do(step); got != want {
+				t.Fatalf("P3: %q: %v, want %v", done, got, want)
+			}
+		}
+		b.same(t, w, done)
 	}
 }
